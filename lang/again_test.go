@@ -93,8 +93,8 @@ func (a *asked) askRows(l api.Language) {
 		for _, ahead := range l.Editors[:i] {
 			a.ask(5, i, 0, api.ErrTwice, ahead.Concept != w.Concept)
 		}
+		a.ask(5, i, 65, api.ErrFull, len(w.Cells) <= 64)
 		for k, c := range w.Cells {
-			a.ask(5, i, k+1, api.ErrFull, k < 64)
 			a.ask(5, i, k+1, api.ErrArg, slices.Contains([]int{1, 2, 3, 4, 5, 6}, c.Kind))
 			a.ask(5, i, k+1, api.ErrLong, len(c.Text+c.Mark) <= 4096)
 		}
@@ -105,8 +105,8 @@ func (a *asked) askRows(l api.Language) {
 		for _, ahead := range l.Templates[:i] {
 			a.ask(6, i, 0, api.ErrTwice, ahead.Concept != w.Concept)
 		}
+		a.ask(6, i, 65, api.ErrFull, len(w.Pieces) <= 64)
 		for k, p := range w.Pieces {
-			a.ask(6, i, k+1, api.ErrFull, k < 64)
 			a.ask(6, i, k+1, api.ErrArg, slices.Contains([]int{1, 2, 3, 4, 5}, p.Kind))
 			a.ask(6, i, k+1, api.ErrLong, len(p.Text+p.Mark) <= 4096)
 		}

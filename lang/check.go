@@ -53,7 +53,7 @@ func throw(f api.Fault, e api.Errno) {
 	panic(wrong(f))
 }
 
-// each goes through a list, and throws the first error that one answers of an element. How many elements may be is asked at the first one too many, not ahead of all: so a fault hangs on nothing that stands behind it.
+// each goes through a list, and throws the first error that one answers of an element. How many elements may be is asked at the first one too many, not ahead of all: so a fault of an element hangs on nothing that stands behind it.
 func each[E any](l []E, most int, where place, one func(i int, x E) api.Errno) {
 	for i, x := range l {
 		if i == most {
@@ -204,7 +204,12 @@ func checkRows[E any, C api.Cell | api.Piece](in, kinds int, l []E, open func(x 
 		if e := named(l[:i], like, concept); e != api.OK {
 			return e
 		}
-		each(row, api.MaxRow, parts(in, i, 0), func(_ int, x C) api.Errno { return cellError(api.Cell(x), kinds) })
+		where := parts(in, i, 0)
+		// A row is a part of one element: how long it may be is asked ahead of all that is in it.
+		if len(row) > api.MaxRow {
+			throw(where(api.MaxRow), api.ErrFull)
+		}
+		each(row, len(row), where, func(_ int, x C) api.Errno { return cellError(api.Cell(x), kinds) })
 		return api.OK
 	})
 }

@@ -20,9 +20,10 @@ func rowOf[E any](n int, of func(i int) E) []E {
 
 func nth(i int) string { return "n" + strconv.Itoa(i) }
 
-// A list that may have so many elements: what it is to have n of them, and the place of the one that is too many. All are right by themselves; spoil makes the one with a number wrong in every way that it can be.
+// A list that may have so many elements: what it is to have n of them, and the place of the one that is too many. All are right by themselves; spoil makes the one with a number wrong in every way that it can be. Of a row the number is asked ahead of its elements, of other lists at the first element too many.
 type limited struct {
 	what  string
+	row   bool
 	most  int
 	full  func(l *api.Language, n int)
 	spoil func(l *api.Language, i int)
@@ -38,45 +39,45 @@ func limits() []limited {
 		return func(i int) api.Fault { return api.Fault{In: in, At: at, Part: ahead + i + 1} }
 	}
 	return []limited{
-		{"Uses", 8, func(l *api.Language, n int) { l.Uses = rowOf(n, nth) }, func(l *api.Language, i int) { l.Uses[i] = "" }, at(1)},
-		{"Concepts", 128, func(l *api.Language, n int) {
+		{"Uses", false, 8, func(l *api.Language, n int) { l.Uses = rowOf(n, nth) }, func(l *api.Language, i int) { l.Uses[i] = "" }, at(1)},
+		{"Concepts", false, 128, func(l *api.Language, n int) {
 			l.Concepts = rowOf(n, func(i int) api.Concept { return api.Concept{Name: nth(i), Super: nth(0)[:1]} })
 		}, func(l *api.Language, i int) {
 			l.Concepts[i] = api.Concept{Super: "9", Props: []api.PropDef{{}}, Kids: []api.KidDef{{}}, Refs: []api.RefDef{{}}}
 		}, at(2)},
-		{"Props", 32, func(l *api.Language, n int) {
+		{"Props", false, 32, func(l *api.Language, n int) {
 			l.Concepts[1].Props = rowOf(n, func(i int) api.PropDef { return api.PropDef{Name: nth(i), Type: 1} })
 		}, func(l *api.Language, i int) { l.Concepts[1].Props[i] = api.PropDef{} }, part(2, 1, 0)},
-		{"Kids", 32, func(l *api.Language, n int) {
+		{"Kids", false, 32, func(l *api.Language, n int) {
 			l.Concepts[0].Kids = rowOf(n, func(i int) api.KidDef { return api.KidDef{Role: nth(i), Concept: "K"} })
 		}, func(l *api.Language, i int) { l.Concepts[0].Kids[i] = api.KidDef{Min: 2} }, part(2, 0, 2)},
-		{"Refs", 32, func(l *api.Language, n int) {
+		{"Refs", false, 32, func(l *api.Language, n int) {
 			l.Concepts[0].Refs = rowOf(n, func(i int) api.RefDef { return api.RefDef{Role: nth(i), Concept: "K"} })
 		}, func(l *api.Language, i int) { l.Concepts[0].Refs[i] = api.RefDef{} }, part(2, 0, 5)},
-		{"Rules", 256, func(l *api.Language, n int) {
+		{"Rules", false, 256, func(l *api.Language, n int) {
 			l.Rules = rowOf(n, func(i int) api.Rule { return api.Rule{Concept: nth(i % 90), Name: nth(i / 180), Scope: i/90%2 > 0} })
 		}, func(l *api.Language, i int) { l.Rules[i] = api.Rule{Expr: long} }, at(3)},
-		{"Equations", 256, func(l *api.Language, n int) {
+		{"Equations", false, 256, func(l *api.Language, n int) {
 			l.Equations = rowOf(n, func(i int) api.Equation {
 				return api.Equation{Concept: "K", Left: []api.Side{{Kind: 1}}, Right: []api.Side{{Kind: 1}}}
 			})
 		}, func(l *api.Language, i int) { l.Equations[i] = api.Equation{Left: make([]api.Side, 65)} }, at(4)},
-		{"Editors", 256, func(l *api.Language, n int) {
+		{"Editors", false, 256, func(l *api.Language, n int) {
 			l.Editors = rowOf(n, func(i int) api.Editor { return api.Editor{Concept: nth(i)} })
 		}, func(l *api.Language, i int) { l.Editors[i] = api.Editor{Cells: make([]api.Cell, 65)} }, at(5)},
-		{"Cells", 64, func(l *api.Language, n int) {
+		{"Cells", true, 64, func(l *api.Language, n int) {
 			l.Editors[1].Cells = rowOf(n, func(i int) api.Cell { return api.Cell{Kind: i%6 + 1} })
 		}, func(l *api.Language, i int) { l.Editors[1].Cells[i] = api.Cell{Text: long} }, part(5, 1, 0)},
-		{"Templates", 256, func(l *api.Language, n int) {
+		{"Templates", false, 256, func(l *api.Language, n int) {
 			l.Templates = rowOf(n, func(i int) api.Template { return api.Template{Concept: nth(i)} })
 		}, func(l *api.Language, i int) { l.Templates[i] = api.Template{Pieces: make([]api.Piece, 65)} }, at(6)},
-		{"Pieces", 64, func(l *api.Language, n int) {
+		{"Pieces", true, 64, func(l *api.Language, n int) {
 			l.Templates[2].Pieces = rowOf(n, func(i int) api.Piece { return api.Piece{Kind: i%5 + 1} })
 		}, func(l *api.Language, i int) { l.Templates[2].Pieces[i] = api.Piece{Mark: long} }, part(6, 2, 0)},
 	}
 }
 
-// P4.1, P4.5: so many elements of each list, and one more, which is told whatever else is wrong with it, but behind what is wrong ahead of it.
+// P4.1, P4.5: so many elements of each list, and one more, which is told whatever else is wrong with it; but behind what is wrong ahead of it, if the list is no row.
 func TestRoom(t *testing.T) {
 	for _, c := range limits() {
 		told := func(i int, e api.Errno) api.Fault {
@@ -104,8 +105,48 @@ func TestRoom(t *testing.T) {
 		asks("the last one wrong", of(c.most, c.most-1), told(c.most-1, api.ErrArg))
 		asks("one more, and that wrong", of(c.most+1, c.most), told(c.most, api.ErrFull))
 		asks("two more, both wrong", of(c.most+2, c.most, c.most+1), told(c.most, api.ErrFull))
-		asks("one more, and the first one wrong", of(c.most+1, 0), told(0, api.ErrArg))
-		asks("one more, and the one ahead wrong", of(c.most+1, c.most-1, c.most), told(c.most-1, api.ErrArg))
+		first, last := told(0, api.ErrArg), told(c.most-1, api.ErrArg)
+		if c.row {
+			first, last = told(c.most, api.ErrFull), told(c.most, api.ErrFull)
+		}
+		asks("one more, and the first one wrong", of(c.most+1, 0), first)
+		asks("one more, and the one ahead wrong", of(c.most+1, c.most-1, c.most), last)
+	}
+}
+
+// P4.1: how long a row is, is asked ahead of its elements, but behind whose row it is and behind all elements of the list ahead of it.
+func TestLongRows(t *testing.T) {
+	long := strings.Repeat("x", 4097)
+	cells := func(n int) []api.Cell { return rowOf(n, func(int) api.Cell { return api.Cell{Kind: 1} }) }
+	spoilt := cells(66)
+	spoilt[63].Text = long
+	other := cells(64)
+	other[63].Kind = 7
+	for _, c := range []struct {
+		rows []api.Editor
+		want api.Fault
+	}{
+		{[]api.Editor{{Concept: "b", Cells: make([]api.Cell, 65)}}, api.Fault{Part: 65, Err: api.ErrFull}},
+		{[]api.Editor{{Concept: "b", Cells: make([]api.Cell, 64)}}, api.Fault{Part: 1, Err: api.ErrArg}},
+		{[]api.Editor{{Concept: "b", Cells: make([]api.Cell, 1<<16)}}, api.Fault{Part: 65, Err: api.ErrFull}},
+		{[]api.Editor{{Concept: "b", Cells: spoilt}}, api.Fault{Part: 65, Err: api.ErrFull}},
+		{[]api.Editor{{Concept: "b", Cells: spoilt[:64]}}, api.Fault{Part: 64, Err: api.ErrLong}},
+		{[]api.Editor{{Concept: "9", Cells: spoilt}}, api.Fault{Err: api.ErrArg}},
+		{[]api.Editor{{Concept: "b"}, {Concept: "b", Cells: spoilt}}, api.Fault{At: 1, Err: api.ErrTwice}},
+		{[]api.Editor{{Concept: "b", Cells: other}, {Concept: "c", Cells: spoilt}}, api.Fault{Part: 64, Err: api.ErrArg}},
+		{[]api.Editor{{Concept: "b", Cells: spoilt[:63]}, {Concept: "c", Cells: spoilt}, {}}, api.Fault{At: 1, Part: 65, Err: api.ErrFull}},
+	} {
+		l, want := api.Language{Name: "a", Version: 1, Editors: c.rows}, c.want
+		want.In = 5
+		tells(t, "cells", l, want)
+		goesOn(t, l, want)
+		l.Editors, want.In = nil, 6
+		for _, w := range c.rows {
+			pieces := rowOf(len(w.Cells), func(i int) api.Piece { return api.Piece(w.Cells[i]) })
+			l.Templates = append(l.Templates, api.Template{Concept: w.Concept, Pieces: pieces})
+		}
+		tells(t, "pieces", l, want)
+		goesOn(t, l, want)
 	}
 }
 

@@ -233,7 +233,7 @@ func TestWalks(t *testing.T) {
 
 // reshape changes how many elements lists have, or in which order they stand.
 func reshape(d dice, l *api.Language) {
-	switch d.IntN(16) {
+	switch d.IntN(18) {
 	case 0:
 		l.Uses = turned(d, append(l.Uses, rowOf(d.IntN(8), nth)...))
 	case 1:
@@ -256,6 +256,14 @@ func reshape(d dice, l *api.Language) {
 		l.Templates = l.Templates[:d.IntN(len(l.Templates)+1)]
 	case 10:
 		l.Uses = nil
+	case 11:
+		for i := range l.Editors {
+			l.Editors[i].Cells = append(l.Editors[i].Cells, rowOf(55+d.IntN(12), func(i int) api.Cell { return api.Cell{Kind: i%6 + 1} })...)
+		}
+	case 12:
+		for i := range l.Templates {
+			l.Templates[i].Pieces = append(l.Templates[i].Pieces, rowOf(55+d.IntN(12), func(i int) api.Piece { return api.Piece{Kind: i%5 + 1} })...)
+		}
 	}
 }
 
